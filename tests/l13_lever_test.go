@@ -32,6 +32,9 @@ var noShifts = []int{
 	math.MinInt, math.MinInt + 1, math.MinInt + 100, math.MaxInt - 100, math.MaxInt - 1, math.MaxInt,
 }
 
+// noHang is on none of the beams.
+var noHang = impl.Hang{Place: 777, Weight: -99}
+
 // A hangPair is a place and what hangs there.
 type hangPair [2]int
 
@@ -89,16 +92,20 @@ func tiltedBeams() [][]impl.Hang {
 	}
 }
 
+// mixer returns a function that answers a number below count. Each step follows
+// from the one before, so that it is the same in every run.
+func mixer(step int) func(count int) int {
+	return func(count int) int {
+		step = (step*1103 + 12345) % 65537
+		return step % count
+	}
+}
+
 // mixedBeams are some of any kind: of each number of hangs, far apart and close
 // together, heavy and light ones.
 func mixedBeams() [][]impl.Hang {
 	var list [][]impl.Hang
-	// Each step follows from the one before, so that it is the same in every run.
-	step := 7
-	next := func(count int) int {
-		step = (step*1103 + 12345) % 65537
-		return step % count
-	}
+	next := mixer(7)
 	for count := 1; count <= 12; count++ {
 		for _, far := range []int{1, 4, 30, 100} {
 			for _, most := range []int{3, 80, 1000} {
@@ -209,19 +216,21 @@ func gathered(beam []impl.Hang) []impl.Hang {
 	return list
 }
 
-// guardedBeam returns a copy of the beam with spare capacity behind it, and a
-// test whether it or what is behind it has been changed.
-func guardedBeam(beam []impl.Hang) ([]impl.Hang, func() bool) {
-	whole := append(slices.Clone(beam), beamOf(hangPair{3, 4}, hangPair{-5, 6}, hangPair{math.MaxInt, -1}, hangPair{0, 0})...)
+// guardedList returns a copy of the list with spare capacity behind it, and a test
+// whether it or what is behind it has been changed. An other value and the zero
+// value are behind it, so that writing any one value there would show.
+func guardedList[T comparable](list []T, other T) ([]T, func() bool) {
+	var zero T
+	whole := append(slices.Clone(list), other, zero, other, zero)
 	before := slices.Clone(whole)
-	return whole[:len(beam)], func() bool { return !slices.Equal(whole, before) }
+	return whole[:len(list)], func() bool { return !slices.Equal(whole, before) }
 }
 
-// overwriteHangs writes to the beam and behind it.
-func overwriteHangs(beam []impl.Hang) {
-	whole := beam[:cap(beam)]
+// overwriteAll writes a value to the list and behind it.
+func overwriteAll[T any](list []T, value T) {
+	whole := list[:cap(list)]
 	for i := range whole {
-		whole[i] = impl.Hang{Place: 77, Weight: 99}
+		whole[i] = value
 	}
 }
 
@@ -824,7 +833,7 @@ func TestMergeAllOrders(t *testing.T) {
 // have spare capacity.
 func TestLeversChangeNothing(t *testing.T) {
 	for _, beam := range append(someBeams(), invalidBeams()...) {
-		given, changed := guardedBeam(beam)
+		given, changed := guardedList(beam, noHang)
 		impl.BeamOk(given)
 		impl.TorqueOf(given)
 		impl.IsLevel(given)
@@ -840,25 +849,25 @@ func TestLeversChangeNothing(t *testing.T) {
 	}
 }
 
-// checkNewBeam writes to one answer, appends to another one and writes behind it,
+// checkNewMemory writes to one answer, appends to another one and writes behind it,
 // and looks at a third one, at the argument and at an answer that comes after;
-// then it writes to the argument.
-func checkNewBeam(t *testing.T, name string, beam []impl.Hang, answer func([]impl.Hang) []impl.Hang) {
+// then it writes to the argument. It writes a value that is in none of them.
+func checkNewMemory[T comparable](t *testing.T, name string, list []T, other T, answer func([]T) []T) {
 	t.Helper()
-	given, changed := guardedBeam(beam)
+	given, changed := guardedList(list, other)
 	first, second, third := answer(given), answer(given), answer(given)
 	want := slices.Clone(third)
-	overwriteHangs(first)
+	overwriteAll(first, other)
 	if !slices.Equal(second, want) || !slices.Equal(third, want) || changed() {
-		t.Fatalf("%s of %v shares memory: %v and %v; want %v", name, beam, second, third, want)
+		t.Fatalf("%s of %v shares memory: %v and %v; want %v", name, list, second, third, want)
 	}
-	overwriteHangs(append(second, impl.Hang{}, impl.Hang{}, impl.Hang{})[len(want):])
+	overwriteAll(append(second, make([]T, 3)...)[len(want):], other)
 	if got := answer(given); !slices.Equal(second, want) || !slices.Equal(third, want) || !slices.Equal(got, want) || changed() {
-		t.Fatalf("%s of %v keeps memory: %v, %v and %v; want %v", name, beam, second, third, got, want)
+		t.Fatalf("%s of %v keeps memory: %v, %v and %v; want %v", name, list, second, third, got, want)
 	}
-	overwriteHangs(given)
+	overwriteAll(given, other)
 	if !slices.Equal(second, want) || !slices.Equal(third, want) {
-		t.Fatalf("%s of %v shares memory with its argument: %v; want %v", name, beam, third, want)
+		t.Fatalf("%s of %v shares memory with its argument: %v; want %v", name, list, third, want)
 	}
 }
 
@@ -866,9 +875,9 @@ func checkNewBeam(t *testing.T, name string, beam []impl.Hang, answer func([]imp
 // that are not in the range.
 func TestLeverAnswersAreNew(t *testing.T) {
 	for _, beam := range append(someBeams(), invalidBeams()...) {
-		checkNewBeam(t, "MergeHangs", beam, impl.MergeHangs)
+		checkNewMemory(t, "MergeHangs", beam, noHang, impl.MergeHangs)
 		for _, by := range []int{0, 1, -1, 5, 100, -100, 200, -200, 201, -201, math.MinInt, math.MaxInt} {
-			checkNewBeam(t, "ShiftBeam", beam, func(given []impl.Hang) []impl.Hang {
+			checkNewMemory(t, "ShiftBeam", beam, noHang, func(given []impl.Hang) []impl.Hang {
 				shifted, _ := impl.ShiftBeam(given, by)
 				return shifted
 			})
